@@ -329,13 +329,17 @@ func addToldTooMuch(nodes map[string]impl.Node) {
 	}
 }
 
+// viewsOf has that node at the end, in the midst, ahead and alone.
+func viewsOf(n impl.Node) [][]impl.Node {
+	return [][]impl.Node{view(n), viewWith(n), append(viewWith(n), node(6)), view(n, node(6)), view(tableNode("a"), n, node(6)), view(tableNode("a"), n, node(5)), view(n, n, n, n, n, n, n, n, n)}
+}
+
 func TestWrongNodesAreRefused(t *testing.T) {
 	for name, n := range wrongNodes() {
 		if impl.NodeOk(n) {
 			t.Errorf("%s: NodeOk(%v) is true", name, n)
 		}
-		views := [][]impl.Node{view(n), viewWith(n), append(viewWith(n), node(6)), view(n, node(6)), view(tableNode("a"), n, node(6)), view(tableNode("a"), n, node(5)), view(n, n, n, n, n, n, n, n, n)}
-		for _, v := range views {
+		for _, v := range viewsOf(n) {
 			if got := impl.ShowView(v); impl.ViewOk(v) || got != "" {
 				t.Errorf("%s: ViewOk(%v) is %v, ShowView %q", name, v, impl.ViewOk(v), got)
 			}
@@ -465,9 +469,10 @@ func TestUpToMaxNodes(t *testing.T) {
 	}
 }
 
-func TestWrongOrders(t *testing.T) {
+// wrongOrders are no views, though most of them have nothing but right nodes.
+func wrongOrders() map[string][]impl.Node {
 	a, once, both, join := tableNode("a"), node(6), node(5), node(4, 0, 0)
-	views := map[string][]impl.Node{
+	return map[string][]impl.Node{
 		"no node":                          nil,
 		"an empty list":                    {},
 		"a node ahead of what it looks at": view(once, a),
@@ -494,7 +499,10 @@ func TestWrongOrders(t *testing.T) {
 		"a right view and a wrong node":    view(a, once, node(8)),
 		"a wrong node and a right view":    view(node(0), a, once),
 	}
-	for name, v := range views {
+}
+
+func TestWrongOrders(t *testing.T) {
+	for name, v := range wrongOrders() {
 		if got := impl.ShowView(v); impl.ViewOk(v) || got != "" {
 			t.Errorf("%s: ViewOk is %v, ShowView %q", name, impl.ViewOk(v), got)
 		}
@@ -761,8 +769,8 @@ func overwriteView(v []impl.Node) {
 	}
 }
 
-// Promise 21, as far as views go.
-func TestViewsStay(t *testing.T) {
+// eachRoomyView goes through right views and wrong ones, with less and less spare room behind their nodes.
+func eachRoomyView(look func(v []impl.Node, memory func() string)) {
 	lists := [][]impl.Node{nil, {{}}}
 	for _, c := range rightViews() {
 		lists = append(lists, c.view, append(slices.Clone(c.view), tableNode("b"), node(9, 1, 2)))
@@ -772,18 +780,24 @@ func TestViewsStay(t *testing.T) {
 	}
 	for _, list := range lists {
 		for size := range len(list) + 1 {
-			v, memory := roomyView(size, list...)
-			was := memory()
-			impl.ViewOk(v)
-			impl.ShowView(v)
-			for _, n := range v {
-				impl.NodeOk(n)
-			}
-			if memory() != was {
-				t.Fatalf("an argument was written into: %s, it was %s", memory(), was)
-			}
+			look(roomyView(size, list...))
 		}
 	}
+}
+
+// Promise 21, as far as views go.
+func TestViewsStay(t *testing.T) {
+	eachRoomyView(func(v []impl.Node, memory func() string) {
+		was := memory()
+		impl.ViewOk(v)
+		impl.ShowView(v)
+		for _, n := range v {
+			impl.NodeOk(n)
+		}
+		if memory() != was {
+			t.Fatalf("an argument was written into: %s, it was %s", memory(), was)
+		}
+	})
 }
 
 // The lists of all nodes may share memory with each other.
