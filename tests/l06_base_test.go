@@ -640,14 +640,18 @@ func batchFor(base []impl.Table, next func(int) int) []impl.Deed {
 	return list
 }
 
-// Long batches, one after the other, each on what came of the last one.
-func TestManyBatchesInARow(t *testing.T) {
-	base, done, refused := []impl.Table{}, 0, 0
-	state := uint32(1)
-	next := func(n int) int {
+// numbersFrom tells numbers less than those it is asked for, without order, but the same ones each time.
+func numbersFrom(state uint32) func(int) int {
+	return func(n int) int {
 		state = state*1664525 + 1013904223
 		return int(state>>16) % n
 	}
+}
+
+// Long batches, one after the other, each on what came of the last one.
+func TestManyBatchesInARow(t *testing.T) {
+	base, done, refused := []impl.Table{}, 0, 0
+	next := numbersFrom(1)
 	for range 6000 {
 		list := batchFor(base, next)
 		checkBatch(t, base, list)
