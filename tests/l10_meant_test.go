@@ -915,7 +915,14 @@ func TestMeantOfRowsInOneMemory(t *testing.T) {
 	cells := []int64{0, 1, 0, 1}
 	b := []impl.Count{{Row: cells[:1], N: 1}, {Row: cells[:2], N: 2}, {Row: cells[1:3], N: 3}}
 	was := slices.Clone(cells)
-	for _, got := range [][]impl.Count{impl.Joined(b, b, 0, 0), impl.Once(b), impl.Grouped(b, cells[:1], 0), impl.Grouped(b, cells[2:3], -1)} {
+	answers := [][]impl.Count{impl.Joined(b, b, 0, 0), impl.Once(b), impl.Grouped(b, cells[:1], 0), impl.Grouped(b, cells[2:3], -1)}
+	checkCellsStay(t, cells, was, answers)
+}
+
+// checkCellsStay sees to it that each answer is something, and shares nothing with the cells of the arguments, nor within itself.
+func checkCellsStay(t *testing.T, cells []int64, was []int64, answers [][]impl.Count) {
+	t.Helper()
+	for _, got := range answers {
 		if len(got) == 0 {
 			t.Fatal("nothing is answered")
 		}
